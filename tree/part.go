@@ -18,7 +18,7 @@ type part interface {
 	under() bool
 
 	get(key string) (string, bool)
-	all(ahead []api.Row) []api.Row
+	from(key string, take func(api.Row) bool) bool
 	put(r api.Row) []part
 	cut(key string) part
 	join(next part) []part
@@ -77,8 +77,17 @@ func (l *leaf) get(key string) (string, bool) {
 	return l.list[at].Value, true
 }
 
-// all answers the rows ahead, and all that are here behind them.
-func (l *leaf) all(ahead []api.Row) []api.Row { return append(ahead, l.list...) }
+// from hands its rows to take, from the first whose Key is not ahead of key on,
+// as long as take says true; false: it said false.
+func (l *leaf) from(key string, take func(api.Row) bool) bool {
+	at, _ := node.Find(l.list, key)
+	for _, r := range l.list[at:] {
+		if !take(r) {
+			return false
+		}
+	}
+	return true
+}
 
 // put answers what it is with r: one part, or two.
 func (l *leaf) put(r api.Row) []part { return leaves(node.Put(l.list, r)) }
@@ -138,12 +147,15 @@ func (n *inner) with(at, count int, others ...part) []part {
 
 func (n *inner) get(key string) (string, bool) { return n.kids[n.at(key)].get(key) }
 
-// all answers the rows ahead, and all that are below behind them.
-func (n *inner) all(ahead []api.Row) []api.Row {
-	for _, kid := range n.kids {
-		ahead = kid.all(ahead)
+// from does as a leaf's does, with all rows below: none is left out by beginning
+// with the kid of that key, as those of the kids ahead of it are ahead of key.
+func (n *inner) from(key string, take func(api.Row) bool) bool {
+	for _, kid := range n.kids[n.at(key):] {
+		if !kid.from(key, take) {
+			return false
+		}
 	}
-	return ahead
+	return true
 }
 
 // put answers what it is with r: one part, or two.

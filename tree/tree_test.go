@@ -203,6 +203,52 @@ func TestP801Rising(t *testing.T) {
 	}
 }
 
+// From begins at each place, between each two, and ends where it is told to.
+func TestFrom(t *testing.T) {
+	for n := range 60 {
+		l, want := tree.New(many(n)...), many(n)
+		if got := slices.Collect(l.From("")); !slices.Equal(got, want) {
+			t.Fatalf("From the first of %d rows on: %v", n, got)
+		}
+		for at, r := range want {
+			if got := slices.Collect(l.From(r.Key)); !slices.Equal(got, want[at:]) {
+				t.Fatalf("From row %d of %d on: %v", at, n, got)
+			}
+			if got := slices.Collect(l.From(r.Key + "\x00")); !slices.Equal(got, want[at+1:]) {
+				t.Fatalf("From behind row %d of %d on: %v", at, n, got)
+			}
+			var got []api.Row
+			for r := range l.From("") {
+				got = append(got, r)
+				if len(got) > at {
+					break
+				}
+			}
+			if !slices.Equal(got, want[:at+1]) {
+				t.Fatalf("From, ended at row %d of %d: %v", at, n, got)
+			}
+		}
+	}
+	var none *tree.Tree
+	for r := range none.From("") {
+		t.Errorf("From a nil tree: %v", r)
+	}
+}
+
+// Rows that come and go on the way turn nothing of what From goes over.
+func TestFromOfATreeThatChanges(t *testing.T) {
+	l, want := tree.New(many(100)...), many(100)
+	var got []api.Row
+	for r := range l.From("") {
+		got = append(got, r)
+		l.Cut(r.Key)
+		l.Put(api.Row{Key: r.Key + "x"})
+	}
+	if !slices.Equal(got, want) || l.Len() != len(want) {
+		t.Errorf("From: %v", got)
+	}
+}
+
 // Nothing is refused: keys and values may be longer than those of tables.
 func TestP801Long(t *testing.T) {
 	long := strings.Repeat("k", 1<<20)
