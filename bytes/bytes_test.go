@@ -354,6 +354,34 @@ func TestP201ManyWrites(t *testing.T) {
 	}
 }
 
+// Failed is not Done's other side: a reader with bytes left is neither.
+func TestP201Failed(t *testing.T) {
+	r := bytes.NewReader([]byte("\x01\x00a\x01\x02"))
+	for i, next := range []func(){func() {}, func() { r.Text() }, func() { r.Flag() }} {
+		next()
+		if r.Failed() || r.Done() {
+			t.Errorf("behind read %d: Failed, or Done", i)
+		}
+	}
+	for range 2 {
+		r.Flag()
+		if !r.Failed() {
+			t.Error("behind a Flag that is none: not Failed")
+		}
+	}
+	r = bytes.NewReader([]byte("\x00"))
+	if r.Flag() || r.Failed() || !r.Done() {
+		t.Error("behind all: Failed")
+	}
+	if r.Int(); !r.Failed() {
+		t.Error("behind what is missing: not Failed")
+	}
+	var none *bytes.Reader
+	if none.Int(); none.Failed() {
+		t.Error("a nil reader is Failed")
+	}
+}
+
 func TestP202NilReader(t *testing.T) {
 	var r *bytes.Reader
 	for range 2 {

@@ -36,6 +36,10 @@ func (r *Reader) Done() bool {
 	return r == nil || !r.failed && len(r.rest) == 0
 }
 
+// Failed tells whether the reader has failed: that is no more than Done tells
+// where bytes are left behind what somebody reads. A nil one can't keep it.
+func (r *Reader) Failed() bool { return r != nil && r.failed }
+
 // take answers the next n bytes; none, if the reader has failed, by this call
 // or before. Of none, join makes 0: what a failed read answers.
 func (r *Reader) take(n int) []byte {
